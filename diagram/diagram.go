@@ -123,6 +123,25 @@ func (s *Store) Nodes(roots ...int) iter.Seq2[int, Node] {
 	}
 }
 
+// Trues goes through the assignments under which a function is true, of the first so many variables of the order (it may hang on no others, which are told as false). They come sorted by the values of these variables, from the top down, false ahead of true.
+func (s *Store) Trues(f, vars int) iter.Seq[int] {
+	return func(yield func(int) bool) {
+		s.tell(f, 0, s.order[:vars], yield)
+	}
+}
+
+// tell tells whether to go on.
+func (s *Store) tell(f, assignment int, vars []int, yield func(int) bool) bool {
+	if f == False {
+		return true
+	}
+	if len(vars) == 0 {
+		return yield(assignment)
+	}
+	low, high := s.split(f, vars[0])
+	return s.tell(low, assignment, vars[1:], yield) && s.tell(high, assignment|1<<vars[0], vars[1:], yield)
+}
+
 // Sweep takes out all that the functions named do not need.
 func (s *Store) Sweep(roots ...int) {
 	// Answers that are remembered may name nodes that go now.

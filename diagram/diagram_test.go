@@ -209,3 +209,97 @@ func TestManyVariables(t *testing.T) {
 		t.Errorf("P4: Support = %b", n)
 	}
 }
+
+func TestTrues(t *testing.T) {
+	dice := rand.New(rand.NewSource(4))
+	for vars := 1; vars <= 6; vars++ {
+		s, small := New(vars+2), New(vars)
+		f := copied(small, some(small, dice), s)
+		var want []int
+		for a := range 1 << vars {
+			// The first variable tells most: the bits the other way round are sorted as the assignments are to be.
+			turned := 0
+			for i := range vars {
+				turned |= a >> i & 1 << (vars - 1 - i)
+			}
+			if s.Eval(f, turned) {
+				want = append(want, turned)
+			}
+		}
+		if got := slices.Collect(s.Trues(f, vars)); !slices.Equal(got, want) {
+			t.Errorf("%d variables: %b, want %b", vars, got, want)
+		}
+	}
+}
+
+// copied makes a function anew in another store.
+func copied(from *Store, f int, to *Store) int {
+	if f <= True {
+		return f
+	}
+	n := from.nodes[f]
+	return to.Ite(to.Var(n.Variable), copied(from, n.High, to), copied(from, n.Low, to))
+}
+
+func TestTruesByOrder(t *testing.T) {
+	s := New(3)
+	if got := slices.Collect(s.Trues(True, 0)); !slices.Equal(got, []int{0}) {
+		t.Errorf("the assignments of no variables: %b", got)
+	}
+	if got := slices.Collect(s.Trues(False, 3)); len(got) != 0 {
+		t.Errorf("False is true under %b", got)
+	}
+	s.Swap(0)
+	// The order is 1, 0, 2; what is asked for is the variables 1 and 0.
+	if got := slices.Collect(s.Trues(True, 2)); !slices.Equal(got, []int{0, 1, 2, 3}) {
+		t.Errorf("all assignments are %b", got)
+	}
+	if got := slices.Collect(s.Trues(s.Or(s.Var(0), s.Var(1)), 2)); !slices.Equal(got, []int{1, 2, 3}) {
+		t.Errorf("assignments by the order 1, 0: %b", got)
+	}
+}
+
+func TestTruesStops(t *testing.T) {
+	s := New(3)
+	f := s.Or(s.Var(0), s.Var(2))
+	all := slices.Collect(s.Trues(f, 3))
+	for stop := 1; stop <= len(all); stop++ {
+		var got []int
+		for a := range s.Trues(f, 3) {
+			got = append(got, a)
+			if len(got) == stop {
+				break
+			}
+		}
+		if !slices.Equal(got, all[:stop]) {
+			t.Errorf("the first %d are %b, want %b", stop, got, all[:stop])
+		}
+	}
+}
+
+func TestSubstitute(t *testing.T) {
+	dice := rand.New(rand.NewSource(5))
+	for range 40 {
+		s := New(4)
+		f := some(s, dice)
+		by := []int{some(s, dice), dice.Intn(2), s.Var(dice.Intn(4)), s.Var(dice.Intn(4))}
+		dice.Shuffle(4, func(i, j int) { by[i], by[j] = by[j], by[i] })
+		kept := slices.Clone(by)
+		g := s.Substitute(f, by)
+		check(t, s)
+		for a := range 16 {
+			inner := 0
+			for i, h := range by {
+				if s.Eval(h, a) {
+					inner |= 1 << i
+				}
+			}
+			if s.Eval(g, a) != s.Eval(f, inner) {
+				t.Fatalf("P6: by %v, under %b it is not as under %b", by, a, inner)
+			}
+		}
+		if !slices.Equal(by, kept) {
+			t.Errorf("P2: the list %v was changed to %v", kept, by)
+		}
+	}
+}

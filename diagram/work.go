@@ -67,10 +67,19 @@ func (s *Store) Exists(f, vars int) int {
 
 // Replace answers f with the variable to[i] in the place of each variable i.
 func (s *Store) Replace(f int, to []int) int {
+	by := make([]int, len(to))
+	for i, variable := range to {
+		by[i] = s.Var(variable)
+	}
+	return s.Substitute(f, by)
+}
+
+// Substitute answers f with the function by[i] in the place of each variable i, all at once.
+func (s *Store) Substitute(f int, by []int) int {
 	done := map[int]int{False: False, True: True}
 	return s.fold(f, done, func(variable, low, high int) int {
-		// The new variable may stand below some of the branches' ones.
-		return s.Ite(s.Var(to[variable]), high, low)
+		// What comes in the variable's place may stand below some of the branches' variables.
+		return s.Ite(by[variable], high, low)
 	})
 }
 

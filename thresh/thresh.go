@@ -4,6 +4,7 @@ package thresh
 import (
 	"thresh/api"
 	"thresh/diagram"
+	"thresh/rules"
 )
 
 // Kernel has functions of truth values.
@@ -160,25 +161,64 @@ func (k *Kernel) Drop(f int) api.Errno {
 }
 
 // Engine has relations, facts and rules.
-type Engine struct{}
+type Engine struct {
+	base *rules.Base
+}
 
 // Check tells what is wrong with a text (P5).
-func Check(text string) api.Fault { return api.Fault{} }
+func Check(text string) api.Fault {
+	_, fault := read(text)
+	return fault
+}
 
 // Print prints a text (P5).
-func Print(text string) (string, api.Fault) { return "", api.Fault{} }
+func Print(text string) (string, api.Fault) {
+	p, fault := read(text)
+	if p == nil {
+		return "", fault
+	}
+	return p.Print(), fault
+}
 
 // Load makes an engine of a text (P6).
-func Load(text string) (*Engine, api.Fault) { return nil, api.Fault{} }
+func Load(text string) (*Engine, api.Fault) {
+	p, fault := read(text)
+	if p == nil {
+		return nil, fault
+	}
+	return &Engine{rules.Work(p)}, fault
+}
 
 // Relations tells the relations (P6).
-func (e *Engine) Relations() []string { return nil }
+func (e *Engine) Relations() []string {
+	var list []string
+	for _, name := range e.base.Names() {
+		list = append(list, name)
+	}
+	return list
+}
 
 // Layer tells a relation's layer (P6).
-func (e *Engine) Layer(rel string) (int, api.Errno) { return 0, api.OK }
+func (e *Engine) Layer(rel string) (int, api.Errno) {
+	place, there := e.base.Place(rel)
+	if !there {
+		return 0, api.ErrName
+	}
+	return e.base.Layer(place), api.OK
+}
 
 // Tuples tells a relation's tuples (P6).
-func (e *Engine) Tuples(rel string) ([][]int, api.Errno) { return nil, api.OK }
+func (e *Engine) Tuples(rel string) ([][]int, api.Errno) {
+	place, there := e.base.Place(rel)
+	if !there {
+		return nil, api.ErrName
+	}
+	var list [][]int
+	for tuple := range e.base.Tuples(place) {
+		list = append(list, tuple)
+	}
+	return list, api.OK
+}
 
 // Rank tells in which round a tuple came (P7).
 func (e *Engine) Rank(rel string, tuple []int) (int, api.Errno) { return 0, api.OK }
