@@ -119,7 +119,16 @@ func (m *meaning) rels() []Rel {
 	var list []Rel
 	for i, name := range m.names.All() {
 		// A copy: the name is to outlive the text, which is not to be kept for its sake.
-		list = append(list, Rel{strings.Clone(name), len(m.columns[i]), layers[i]})
+		list = append(list, Rel{strings.Clone(name), m.sizesOf(i), layers[i]})
+	}
+	return list
+}
+
+// sizesOf tells the sizes of a rel's columns.
+func (m *meaning) sizesOf(rel int) []int {
+	var list []int
+	for _, dom := range m.columns[rel] {
+		list = append(list, m.sizes[dom])
 	}
 	return list
 }

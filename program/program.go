@@ -14,9 +14,9 @@ type Program struct {
 
 // Rel is a relation.
 type Rel struct {
-	Name    string
-	Columns int
-	Layer   int
+	Name  string
+	Sizes []int // by column: that of its dom
+	Layer int
 }
 
 // Clause is a fact, if it has no lits, else a rule.

@@ -30,7 +30,7 @@ func TestGivenUp(t *testing.T) {
 
 func TestRead(t *testing.T) {
 	p := Read("dom c 2; dom d 8; rel a(d); rel b(c, d); a(07). b(X, Y) :- b(X, Z), !a(Y), a(Y), b(1, Y).")
-	if got := fmt.Sprint(p.Rels); got != "[{a 1 0} {b 2 1}]" {
+	if got := fmt.Sprint(p.Rels); got != "[{a [8] 0} {b [2 8] 1}]" {
 		t.Errorf("P6: rels %s", got)
 	}
 	if got := fmt.Sprint(p.Clauses); got != "[{{0 [{false 7}]} []} {{1 [{true 0} {true 1}]} [{{1 [{true 0} {true 2}]} false} {{0 [{true 1}]} true} {{0 [{true 1}]} false} {{1 [{false 1} {true 1}]} false}]}]" {

@@ -13,6 +13,28 @@ import (
 // variable tells which of the diagrams' variables a bit of a column or of a VAR is. The greatest bit is the first one.
 func variable(place, i int) int { return bits*place + i }
 
+// tupleOf tells the numbers whose bits an assignment gives.
+func tupleOf(assignment, columns int) []int {
+	list := make([]int, columns)
+	for column := range list {
+		for i := range bits {
+			list[column] = list[column]<<1 | assignment>>variable(column, i)&1
+		}
+	}
+	return list
+}
+
+// assignmentOf is tupleOf the other way round.
+func assignmentOf(tuple []int) int {
+	assignment := 0
+	for column, n := range tuple {
+		for i := range bits {
+			assignment |= n >> (bits - 1 - i) & 1 << variable(column, i)
+		}
+	}
+	return assignment
+}
+
 // where answers by VARs where a function of columns is true of an atom's terms.
 func (b *Base) where(f int, a program.Atom) int {
 	var by []int

@@ -13,33 +13,41 @@ import (
 // bits is how many a number below api.MaxSize has.
 const bits = 3
 
-// Base has relations with their tuples.
+// Base has relations with their tuples, and the facts and rules from which these follow.
 type Base struct {
 	names    ordered.Set[string]
 	rels     []relation
+	rules    []program.Clause
 	diagrams *diagram.Store
 }
 
 type relation struct {
-	columns int
-	layer   int
-	tuples  int // the function that is true of them
+	sizes  []int // by column
+	layer  int
+	facts  int         // the function that is true of them
+	tuples int         // that of all that follow
+	ranks  map[int]int // by the assignment of a tuple's bits
 }
+
+// vars tells of how many of the diagrams' variables a relation is a function.
+func (r *relation) vars() int { return bits * len(r.sizes) }
 
 // Work makes a base of all that follows from a program.
 func Work(p *program.Program) *Base {
 	b := &Base{diagrams: diagram.New(bits * max(api.MaxColumns, api.MaxTerms))}
-	layers := 0
 	for _, r := range p.Rels {
 		b.names.Add(r.Name)
-		b.rels = append(b.rels, relation{r.Columns, r.Layer, diagram.False})
-		layers = max(layers, r.Layer+1)
+		b.rels = append(b.rels, relation{r.Sizes, r.Layer, diagram.False, diagram.False, map[int]int{}})
 	}
-	b.addFacts(p.Clauses)
-	for layer := range layers {
-		b.workLayer(layer, p.Clauses)
+	for _, c := range p.Clauses {
+		if len(c.Lits) > 0 {
+			b.rules = append(b.rules, c)
+			continue
+		}
+		r := &b.rels[c.Head.Rel]
+		r.facts = b.diagrams.Or(r.facts, b.heads(diagram.True, c.Head))
 	}
-	b.sweep(nil, nil)
+	b.work(0)
 	return b
 }
 
@@ -57,19 +65,16 @@ func (b *Base) Tuples(rel int) iter.Seq[[]int] {
 	r := b.rels[rel]
 	return func(yield func([]int) bool) {
 		// The bits stand in the order column by column, the greatest first: so the assignments come as the tuples are sorted.
-		for assignment := range b.diagrams.Trues(r.tuples, bits*r.columns) {
-			if !yield(tuple(assignment, r.columns)) {
+		for assignment := range b.diagrams.Trues(r.tuples, r.vars()) {
+			if !yield(tupleOf(assignment, len(r.sizes))) {
 				return
 			}
 		}
 	}
 }
 
-// tuple tells the numbers whose bits an assignment gives.
-func tuple(assignment, columns int) []int {
-	list := make([]int, columns)
-	for i := range bits * columns {
-		list[i/bits] = list[i/bits]<<1 | assignment>>i&1
-	}
-	return list
+// Rank tells in which round of its layer a tuple came (0: it is a fact), and whether it follows at all.
+func (b *Base) Rank(rel int, tuple []int) (int, bool) {
+	rank, there := b.rels[rel].ranks[assignmentOf(tuple)]
+	return rank, there
 }

@@ -13,33 +13,50 @@ type rule struct {
 	holds []int // by lit: where it holds, by the bits of the clause's VARs
 }
 
-func (b *Base) addFacts(clauses []program.Clause) {
-	for _, c := range clauses {
-		if len(c.Lits) == 0 {
-			b.add(c.Head.Rel, b.heads(diagram.True, c.Head))
-		}
+// work finds anew what follows in a layer and in all above it. Those below it do not hang on it.
+func (b *Base) work(layer int) {
+	// Each layer has a relation: so there are no more layers than these.
+	for ; layer < len(b.rels); layer++ {
+		b.workLayer(layer)
 	}
-}
-
-func (b *Base) add(rel, tuples int) {
-	b.rels[rel].tuples = b.diagrams.Or(b.rels[rel].tuples, tuples)
+	b.sweep(nil, nil)
 }
 
 // workLayer goes round by round until one brings nothing.
-func (b *Base) workLayer(layer int, clauses []program.Clause) {
-	rules := b.begin(layer, clauses)
+func (b *Base) workLayer(layer int) {
+	b.leaveFacts(layer)
+	rules := b.begin(layer)
 	fresh := b.firstRound(rules)
-	for b.addFresh(fresh) {
+	for rank := 1; b.addFresh(fresh, rank); rank++ {
 		fresh = b.nextRound(rules, fresh)
 		b.sweep(rules, fresh)
 	}
 }
 
+// leaveFacts takes all tuples of a layer away that are no facts.
+func (b *Base) leaveFacts(layer int) {
+	for i := range b.rels {
+		r := &b.rels[i]
+		if r.layer == layer {
+			r.tuples = diagram.False
+			clear(r.ranks)
+			b.add(r, r.facts, 0)
+		}
+	}
+}
+
+func (b *Base) add(r *relation, tuples, rank int) {
+	r.tuples = b.diagrams.Or(r.tuples, tuples)
+	for assignment := range b.diagrams.Trues(tuples, r.vars()) {
+		r.ranks[assignment] = rank
+	}
+}
+
 // begin tells the rules with a head of a layer, as they hold ahead of the first round.
-func (b *Base) begin(layer int, clauses []program.Clause) []rule {
+func (b *Base) begin(layer int) []rule {
 	var rules []rule
-	for _, c := range clauses {
-		if len(c.Lits) == 0 || b.rels[c.Head.Rel].layer != layer {
+	for _, c := range b.rules {
+		if b.rels[c.Head.Rel].layer != layer {
 			continue
 		}
 		r := rule{Clause: c}
@@ -98,10 +115,10 @@ func (b *Base) withoutOld(found []int) []int {
 }
 
 // addFresh tells whether there was anything to add.
-func (b *Base) addFresh(fresh []int) bool {
+func (b *Base) addFresh(fresh []int, rank int) bool {
 	grown := false
 	for i, f := range fresh {
-		b.add(i, f)
+		b.add(&b.rels[i], f, rank)
 		grown = grown || f != diagram.False
 	}
 	return grown
@@ -111,7 +128,7 @@ func (b *Base) addFresh(fresh []int) bool {
 func (b *Base) sweep(rules []rule, fresh []int) {
 	roots := slices.Clone(fresh)
 	for _, r := range b.rels {
-		roots = append(roots, r.tuples)
+		roots = append(roots, r.facts, r.tuples)
 	}
 	for _, r := range rules {
 		roots = append(roots, r.holds...)

@@ -21,3 +21,17 @@ func read(text string) (p *program.Program, fault api.Fault) {
 	}()
 	return program.Read(text), api.Fault{}
 }
+
+// place tells where a relation stands of which a list is to be a tuple.
+func (e *Engine) place(rel string, tuple []int) (int, api.Errno) {
+	place, there := e.base.Place(rel)
+	switch {
+	case !there:
+		return 0, api.ErrName
+	case len(tuple) != e.base.Columns(place):
+		return 0, api.ErrArity
+	case !e.base.Fits(place, tuple):
+		return 0, api.ErrRange
+	}
+	return place, api.OK
+}

@@ -220,6 +220,38 @@ func TestEnginesApart(t *testing.T) {
 	layers(t, b, 1, 0)
 }
 
+// tells holds all that an engine tells against all that follows by the document's words, which it answers by rel and tuple.
+func tells(t *testing.T, e *thresh.Engine, s *said) map[string]map[string]int {
+	t.Helper()
+	if !slices.Equal(e.Relations(), s.rels) {
+		t.Fatalf("P6: %s\nRelations = %q", s.text(), e.Relations())
+	}
+	all := s.ranks()
+	for rel, ranks := range all {
+		layer, err := e.Layer(rel)
+		if want := s.layer(rel, nil); layer != want || err != api.OK {
+			t.Fatalf("P6: %s\nLayer(%q) = %d, %d, want %d", s.text(), rel, layer, err, want)
+		}
+		list, err := e.Tuples(rel)
+		var got []string
+		for _, tuple := range list {
+			got = append(got, fmt.Sprint(tuple))
+		}
+		// One digit a number: sorted as texts they are sorted as tuples.
+		if want := slices.Sorted(maps.Keys(ranks)); !slices.Equal(got, want) || err != api.OK {
+			t.Fatalf("P6: %s\nTuples(%q) = %v, %d, want %v", s.text(), rel, got, err, want)
+		}
+		for _, tuple := range s.space(rel) {
+			want, there := ranks[fmt.Sprint(tuple)]
+			rank, err := e.Rank(rel, tuple)
+			if rank != want || there && err != api.OK || !there && err != api.ErrNone {
+				t.Fatalf("P7: %s\nRank(%q, %v) = %d, %d, want %d, %v", s.text(), rel, tuple, rank, err, want, there)
+			}
+		}
+	}
+	return all
+}
+
 // TestEnginesAgainstSaid holds engines of programs that were written by chance against all that follows by the document's words.
 func TestEnginesAgainstSaid(t *testing.T) {
 	dice := rand.New(rand.NewSource(12))
@@ -231,25 +263,8 @@ func TestEnginesAgainstSaid(t *testing.T) {
 			continue
 		}
 		engines++
-		e := load(t, text)
-		if !slices.Equal(e.Relations(), s.rels) {
-			t.Fatalf("P6: %s\nRelations = %q", text, e.Relations())
-		}
-		for rel, ranks := range s.ranks() {
-			layer, err := e.Layer(rel)
-			if want := s.layer(rel, nil); layer != want || err != api.OK {
-				t.Fatalf("P6: %s\nLayer(%q) = %d, %d, want %d", text, rel, layer, err, want)
-			}
-			list, err := e.Tuples(rel)
-			var got []string
-			for _, tuple := range list {
-				got = append(got, fmt.Sprint(tuple))
-			}
-			// One digit a number: sorted as texts they are sorted as tuples.
-			if want := slices.Sorted(maps.Keys(ranks)); !slices.Equal(got, want) || err != api.OK {
-				t.Fatalf("P6: %s\nTuples(%q) = %v, %d, want %v", text, rel, got, err, want)
-			}
-			high, most = max(high, layer), max(most, len(list))
+		for rel, ranks := range tells(t, load(t, text), s) {
+			high, most = max(high, s.layer(rel, nil)), max(most, len(ranks))
 			late = max(late, slices.Max(append(slices.Collect(maps.Values(ranks)), 0)))
 		}
 	}

@@ -413,3 +413,104 @@ func (s *said) ways(c saidClause, each func(put map[string]string)) {
 	}
 	next(0)
 }
+
+// misfit tells why a list is no tuple of a rel.
+func (s *said) misfit(rel string, list []int) api.Errno {
+	columns, there := s.columns[rel]
+	if !there {
+		return api.ErrName
+	}
+	if len(list) != len(columns) {
+		return api.ErrArity
+	}
+	for i, n := range list {
+		if n < 0 || n >= s.sizes[columns[i]] {
+			return api.ErrRange
+		}
+	}
+	return api.OK
+}
+
+// facts tells the facts as texts, each once.
+func (s *said) facts() []string {
+	var list []string
+	for _, c := range s.clauses {
+		if len(c.lits) == 0 {
+			list = append(list, c.print())
+		}
+	}
+	slices.Sort(list)
+	return slices.Compact(list)
+}
+
+func factOf(rel string, tuple []int) saidClause {
+	c := saidClause{head: saidAtom{rel: rel}}
+	for _, n := range tuple {
+		c.head.terms = append(c.head.terms, strconv.Itoa(n))
+	}
+	return c
+}
+
+func (s *said) add(rel string, tuple []int) api.Errno {
+	if err := s.misfit(rel, tuple); err != api.OK {
+		return err
+	}
+	c := factOf(rel, tuple)
+	if slices.Contains(s.facts(), c.print()) {
+		return api.ErrTwice
+	}
+	if len(s.facts()) >= 60 {
+		return api.ErrMany
+	}
+	s.clauses = append(s.clauses, c)
+	return api.OK
+}
+
+func (s *said) remove(rel string, tuple []int) api.Errno {
+	if err := s.misfit(rel, tuple); err != api.OK {
+		return err
+	}
+	gone := factOf(rel, tuple).print()
+	if !slices.Contains(s.facts(), gone) {
+		return api.ErrNone
+	}
+	s.clauses = slices.DeleteFunc(s.clauses, func(c saidClause) bool { return c.print() == gone })
+	return api.OK
+}
+
+// declared tells the text's doms and rels.
+func (s *said) declared() string {
+	var b strings.Builder
+	for _, item := range s.items {
+		if strings.HasPrefix(item, "dom ") || strings.HasPrefix(item, "rel ") {
+			b.WriteString(item)
+		}
+	}
+	return b.String()
+}
+
+// text tells a program of the clauses as they are, each fact once.
+func (s *said) text() string {
+	rules := ""
+	for _, c := range s.clauses {
+		if len(c.lits) > 0 {
+			rules += c.print()
+		}
+	}
+	return s.declared() + rules + strings.Join(s.facts(), "")
+}
+
+// space tells all tuples that a rel may have.
+func (s *said) space(rel string) [][]int {
+	list := [][]int{nil}
+	for _, dom := range s.columns[rel] {
+		var longer [][]int
+		for _, tuple := range list {
+			for n := range s.sizes[dom] {
+				longer = append(longer, append(slices.Clone(tuple), n))
+			}
+		}
+		list = longer
+	}
+	return list
+}

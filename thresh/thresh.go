@@ -221,10 +221,42 @@ func (e *Engine) Tuples(rel string) ([][]int, api.Errno) {
 }
 
 // Rank tells in which round a tuple came (P7).
-func (e *Engine) Rank(rel string, tuple []int) (int, api.Errno) { return 0, api.OK }
+func (e *Engine) Rank(rel string, tuple []int) (int, api.Errno) {
+	place, err := e.place(rel, tuple)
+	if err != api.OK {
+		return 0, err
+	}
+	rank, there := e.base.Rank(place, tuple)
+	if !there {
+		return 0, api.ErrNone
+	}
+	return rank, api.OK
+}
 
 // Add adds a fact (P7).
-func (e *Engine) Add(rel string, tuple []int) api.Errno { return api.OK }
+func (e *Engine) Add(rel string, tuple []int) api.Errno {
+	place, err := e.place(rel, tuple)
+	switch {
+	case err != api.OK:
+		return err
+	case e.base.IsFact(place, tuple):
+		return api.ErrTwice
+	case e.base.Facts() == api.MaxFacts:
+		return api.ErrMany
+	}
+	e.base.Add(place, tuple)
+	return api.OK
+}
 
 // Remove takes a fact away (P7).
-func (e *Engine) Remove(rel string, tuple []int) api.Errno { return api.OK }
+func (e *Engine) Remove(rel string, tuple []int) api.Errno {
+	place, err := e.place(rel, tuple)
+	switch {
+	case err != api.OK:
+		return err
+	case !e.base.IsFact(place, tuple):
+		return api.ErrNone
+	}
+	e.base.Remove(place, tuple)
+	return api.OK
+}
