@@ -447,7 +447,7 @@ func change(t *testing.T, dice *rand.Rand, e *thresh.Engine, s *said) api.Errno 
 	return want
 }
 
-// TestChangesAgainstSaid holds engines against the document's words, behind each call.
+// TestChangesAgainstSaid holds engines against the document's words and against engines newly made, behind each call.
 func TestChangesAgainstSaid(t *testing.T) {
 	dice := rand.New(rand.NewSource(31))
 	seen := map[api.Errno]int{}
@@ -467,11 +467,12 @@ func TestChangesAgainstSaid(t *testing.T) {
 					late = max(late, rank)
 				}
 			}
-		}
-		if other, fault := thresh.Load(s.text()); fault.Code == api.OK {
-			fresh++
-			if picture(e) != picture(other) {
-				t.Fatalf("P7: %s\nan engine newly made of this tells other things", s.text())
+			// A text has room for fewer facts than an engine: not each state can be made anew of one.
+			if other, fault := thresh.Load(s.text()); fault.Code == api.OK {
+				fresh++
+				if picture(e) != picture(other) {
+					t.Fatalf("P7: %s\nan engine newly made of this tells other things", s.text())
+				}
 			}
 		}
 	}
@@ -480,7 +481,7 @@ func TestChangesAgainstSaid(t *testing.T) {
 			t.Errorf("the calls are too plain: error %d came %d times", err, seen[err])
 		}
 	}
-	if late < 4 || fresh < 200 {
+	if late < 4 || fresh < 3500 {
 		t.Errorf("the changes are too plain: at most %d rounds, %d engines made anew", late, fresh)
 	}
 }
